@@ -21,6 +21,23 @@ func textsOver(characters string, longest int) []string {
 	return all
 }
 
+// choicesOf returns the lists of some items, from none to all of them, each list also backwards.
+func choicesOf[T any](items ...T) [][]T {
+	var all [][]T
+	for chosen := range 1 << len(items) {
+		var list []T
+		for i, item := range items {
+			if chosen>>i&1 == 1 {
+				list = append(list, item)
+			}
+		}
+		back := slices.Clone(list)
+		slices.Reverse(back)
+		all = append(all, list, back)
+	}
+	return all
+}
+
 func repeated(n int64, times int) []int64 {
 	list := make([]int64, times)
 	for i := range list {

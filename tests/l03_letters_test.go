@@ -52,21 +52,7 @@ func startOf(letters []string) string {
 }
 
 // alphabetsOver returns alphabets of some letters, each one also backwards.
-func alphabetsOver(letters ...string) [][]string {
-	var all [][]string
-	for chosen := 1; chosen < 1<<len(letters); chosen++ {
-		var list []string
-		for i, letter := range letters {
-			if chosen>>i&1 == 1 {
-				list = append(list, letter)
-			}
-		}
-		back := slices.Clone(list)
-		slices.Reverse(back)
-		all = append(all, list, back)
-	}
-	return all
-}
+func alphabetsOver(letters ...string) [][]string { return choicesOf(letters...)[2:] }
 
 // spelled tries all letters at each place and takes the longest one that fits.
 func spelled(letters []string, word string) ([]int64, bool) {
